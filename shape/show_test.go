@@ -1,6 +1,7 @@
 package shape
 
 import (
+	"slices"
 	"strings"
 	"testing"
 
@@ -87,7 +88,8 @@ func TestShowBraces(t *testing.T) {
 	shows(t, `[\[]:a:]`, chars("[:a:]"))
 }
 
-// P5.2: texts of MaxText bytes may be, longer ones not.
+// P5.2: a right tree is told, however long its pattern is; of one of more than
+// MaxText bytes Parse, not Show, says ErrLong.
 func TestShowLong(t *testing.T) {
 	// 128 bytes, one between each two, and five of them behind a backslash or
 	// none: as long as brackets get.
@@ -115,20 +117,33 @@ func TestShowLong(t *testing.T) {
 	if back, err := Parse(text); err != api.OK || !same(back, r) {
 		t.Error("Parse of a long text that was shown:", err)
 	}
-	for _, r := range []api.Re{cat(append(kids, set("a"))...), times(0, -1, r), alt(append(kids, none)...), cat(append(kids, wide)...)} {
-		if text, err := Show(r); !Right(r) || text != "" || err != api.ErrLong {
-			t.Errorf("Show of a tree that is too long: %s, %d", brief(text), err)
-		}
+	more := func(by ...api.Re) []api.Re {
+		return append(slices.Clone(kids), by...)
 	}
-	// What is not right counts ahead.
-	wrong(t, cat(append(kids, set("a"), api.Re{})...))
-	// As many brackets as there may be.
+	for _, r := range []api.Re{cat(more(set("a"))...), times(0, -1, r), alt(more(none)...), cat(more(wide)...)} {
+		showsLong(t, r)
+	}
+	// What is not right is not told.
+	wrong(t, cat(more(set("a"), api.Re{})...))
+	// As many brackets as there may be, and one more.
 	for len(kids) < mostTrees-1 {
 		kids = append(kids, wide)
 	}
-	if text, err := Show(cat(kids...)); text != "" || err != api.ErrLong {
-		t.Errorf("Show of a tree that is much too long: %s, %d", brief(text), err)
+	showsLong(t, cat(kids...))
+	wrong(t, cat(more(wide)...))
+	// Of as many levels as there may be.
+	showsLong(t, nested(mostLevels-1, cat(kids[:mostTrees-2*mostLevels]...), func(kid api.Re) api.Re { return cat(set("("), kid) }))
+}
+
+// showsLong says that a tree is told by the text that says it, and that this is
+// more than Parse takes.
+func showsLong(t *testing.T, r api.Re) {
+	t.Helper()
+	text, err := Show(r)
+	if want := modelShow(r); err != api.OK || text != want || len(text) <= mostBytes {
+		t.Errorf("Show of a long pattern: %s, %d; want %s", brief(text), err, brief(want))
 	}
+	fails(t, api.ErrLong, text)
 }
 
 // P5.2, P5.4: a pattern that says much in few bytes, and may not be shown.
